@@ -180,8 +180,9 @@ func paddedNumber(n int64, width int) string {
 	return s
 }
 
-// readDigits returns the number that a short string of digits only stands for, and true, or 0 and
-// false if it has another byte. It is stricter than strconv, which also accepts signs.
+// readDigits returns the number that a string of digits only stands for, and true, or 0 and false
+// if it has another byte. It is stricter than strconv, which also accepts signs. The number may wrap
+// around if there are more than 18 digits.
 func readDigits(s string) (int64, bool) {
 	n := int64(0)
 	for i := range len(s) {
