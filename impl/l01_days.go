@@ -95,13 +95,16 @@ func ReadDate(s string) (Date, bool) {
 // isDay reports whether n is the number of a day.
 func isDay(n int64) bool { return n >= 0 && n <= MaxDay }
 
+// isYear reports whether year is a year of the two calendars.
+func isYear(year int64) bool { return year >= 1 && year <= MaxYear }
+
 // isValid reports whether d is old or new.
 func (d Date) isValid() bool { return d.isIn(oldReckoning) || d.isIn(newReckoning) }
 
 // isIn reports whether d is a date of a calendar. The month is checked before its length is asked
 // for.
 func (d Date) isIn(r reckoning) bool {
-	return d.Year >= 1 && d.Year <= MaxYear &&
+	return isYear(d.Year) &&
 		d.Month >= 1 && d.Month <= 12 &&
 		d.Day >= 1 && d.Day <= r.monthLength(d.Year, d.Month)
 }
