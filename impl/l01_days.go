@@ -122,6 +122,12 @@ func (d Date) number(r reckoning) (int64, int64) {
 	return n, ErrNone
 }
 
+// oldDayOf returns the number of the old date with a year, a month and a day that are known to be one.
+func oldDayOf(year int64, month int64, day int64) int64 {
+	n, _ := Date{Year: year, Month: month, Day: day}.number(oldReckoning)
+	return n
+}
+
 // date returns the date with the number n, and ErrNone, or the zero value and ErrRange if n
 // belongs to no date of the calendar.
 func (r reckoning) date(n int64) (Date, int64) {

@@ -166,6 +166,34 @@ func checkEasterDate(t *testing.T, year int64, d impl.Date) {
 	}
 }
 
+// TestEastersByTheFormulas compares all years with the document's formulas, written out as they stand
+// there; all quotients in them are of numbers that are not negative.
+func TestEastersByTheFormulas(t *testing.T) {
+	for year := int64(1); year <= 2000; year++ {
+		a, b, c := year%4, year%7, year%19
+		p := (19*c + 15) % 30
+		q := (2*a + 4*b - p + 34) % 7
+		s := p + q + 114
+		old := walked().oldNumbers[place(impl.Date{Year: year, Month: s / 31, Day: s%31 + 1})]
+		if n, code := impl.OldEaster(year); n != old || code != impl.ErrNone {
+			t.Errorf("OldEaster(%d) = %d, %d; want %d", year, n, code, old)
+		}
+		if year < firstNewEaster {
+			continue
+		}
+		k := year / 100
+		h := (19*c + k - k/4 - (8*k+13)/25 + 15) % 30
+		i := h - (h/28)*(1-(29/(h+1))*((21-c)/11))
+		j := (year + year/4 + i + 2 - k + k/4) % 7
+		l := i - j
+		month := 3 + (l+40)/44
+		new := walked().newNumbers[place(impl.Date{Year: year, Month: month, Day: l + 28 - 31*(month/4)})]
+		if n, code := impl.NewEaster(year); n != new || code != impl.ErrNone {
+			t.Errorf("NewEaster(%d) = %d, %d; want %d", year, n, code, new)
+		}
+	}
+}
+
 func TestNewEasters(t *testing.T) {
 	for year := int64(-1); year <= 2002; year++ {
 		n, code := impl.NewEaster(year)
@@ -559,8 +587,8 @@ func TestYearsWithEasterGivesNewMemory(t *testing.T) {
 	}
 }
 
-// firstCalls are the functions for which the days of Easter are computed, with what they have to return
-// for a year from 1583 on.
+// firstCalls are the functions that tell of Easter, with what they have to return for a year from 1583
+// on. The days that are kept are filled in by the first call that reads them, whichever that is.
 func firstCalls() map[string]func(year int64) (got int64, want int64) {
 	e := easterDays()
 	return map[string]func(int64) (int64, int64){
@@ -586,7 +614,7 @@ func localFirst(reform int64, year int64) int64 {
 const firstCallName = "EASTER_FIRST_CALL"
 
 // TestFirstCalls starts a process of its own for each function, in which this function is the first one
-// that needs the days of Easter, and is called by several goroutines at once.
+// of all that is called, by several goroutines at once.
 func TestFirstCalls(t *testing.T) {
 	if name := os.Getenv(firstCallName); name != "" {
 		callAtOnce(t, firstCalls()[name])
