@@ -148,7 +148,8 @@ func (r reckoning) date(n int64) (Date, int64) {
 	return d, ErrNone
 }
 
-// yearStart returns the number of January 1 of a year in 1..MaxYear+1.
+// yearStart returns the number of January 1 of a year from 1 on, which is no day if the year is behind
+// MaxYear.
 func (r reckoning) yearStart(year int64) int64 {
 	past := year - 1
 	n := past*365 + past/4
